@@ -12,33 +12,33 @@ const tokenBytes = "ABCDEFGHIJKLMNOPQRSTUVWXYZabcdefghijklmnopqrstuvwxyz01234567
 // spaces are the bytes that space is made of.
 const spaces = " \t"
 
-// A text is what is yet to be parsed: methods take off its head what they tell. Once one of them tells that
-// something is not so, what is left means nothing.
-type text string
+// A Text is what is yet to be parsed: methods take off its head what they tell. Once one of them tells that
+// something is not so, what is left means nothing. Layer 17 parses by it, too.
+type Text string
 
 // kind is the Type and the Sub that stand next, and whether they do.
-func (t *text) kind() (m api.Media, is bool) {
-	t.space()
+func (t *Text) kind() (m api.Media, is bool) {
+	t.Space()
 	m.Type = small(t.token())
-	parted := t.takes('/')
+	parted := t.Takes('/')
 	m.Sub = small(t.token())
 	return m, m.Type != "" && parted && m.Sub != "" && (m.Type != star || m.Sub == star)
 }
 
 // param is the parameter that stands next, and whether one does.
-func (t *text) param() (p api.Pair, is bool) {
-	begins := t.takes(';')
-	t.space()
+func (t *Text) param() (p api.Pair, is bool) {
+	begins := t.Takes(';')
+	t.Space()
 	p.Name = small(t.token())
-	parted := t.takes('=')
+	parted := t.Takes('=')
 	value, has := t.value()
 	p.Value = value
 	return p, begins && p.Name != "" && parted && has
 }
 
 // value is the token, or what is quoted, that stands next, and whether one of them does.
-func (t *text) value() (s string, is bool) {
-	if t.takes('"') {
+func (t *Text) value() (s string, is bool) {
+	if t.Takes('"') {
 		return t.quoted()
 	}
 	s = t.token()
@@ -46,10 +46,10 @@ func (t *text) value() (s string, is bool) {
 }
 
 // quoted is what stands ahead of the quote that ends it, and whether there is one.
-func (t *text) quoted() (s string, ends bool) {
+func (t *Text) quoted() (s string, ends bool) {
 	var b []byte
-	for !t.takes('"') {
-		t.takes('\\') // what stands behind it is no end, and no other such
+	for !t.Takes('"') {
+		t.Takes('\\') // what stands behind it is no end, and no other such
 		c, is := t.quotable()
 		if !is {
 			return "", false
@@ -60,7 +60,7 @@ func (t *text) quoted() (s string, ends bool) {
 }
 
 // quotable is the byte that stands next, and whether there is one that may be quoted.
-func (t *text) quotable() (c byte, is bool) {
+func (t *Text) quotable() (c byte, is bool) {
 	if *t == "" {
 		return 0, false
 	}
@@ -70,20 +70,20 @@ func (t *text) quotable() (c byte, is bool) {
 }
 
 // token is the token that stands next. It is empty if there is none.
-func (t *text) token() string {
+func (t *Text) token() string {
 	all := string(*t)
 	rest := strings.TrimLeft(all, tokenBytes)
-	*t = text(rest)
+	*t = Text(rest)
 	return all[:len(all)-len(rest)]
 }
 
-// space takes the space that stands next, if there is any.
-func (t *text) space() {
-	*t = text(strings.TrimLeft(string(*t), spaces))
+// Space takes the space that stands next, if there is any.
+func (t *Text) Space() {
+	*t = Text(strings.TrimLeft(string(*t), spaces))
 }
 
-// takes tells whether that byte stands next; if so, it is taken.
-func (t *text) takes(c byte) bool {
+// Takes tells whether that byte stands next; if so, it is taken.
+func (t *Text) Takes(c byte) bool {
 	if *t == "" || (*t)[0] != c {
 		return false
 	}
